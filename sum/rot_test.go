@@ -3,6 +3,8 @@ package sum
 import (
 	"slices"
 	"testing"
+
+	"quilt/chance"
 )
 
 // rotten is b with those bits changed, each byte's lowest first.
@@ -32,9 +34,9 @@ func notGood(t *testing.T, b []byte, bits ...int) {
 
 // SM3: one bit, wherever it is, in the sum too.
 func TestRotOneBit(t *testing.T) {
-	c := chance(11)
+	c := chance.Chance(11)
 	for _, n := range []int{4, 5, 8, 36, 512, 4096} {
-		m := marked(t, c.bytes(n))
+		m := marked(t, c.Bytes(n))
 		for bit := range 8 * n {
 			notGood(t, m, bit)
 		}
@@ -43,18 +45,18 @@ func TestRotOneBit(t *testing.T) {
 
 // SM3: two bits: all pairs of a few bytes, and many of the longest.
 func TestRotTwoBits(t *testing.T) {
-	c := chance(12)
+	c := chance.Chance(12)
 	for _, n := range []int{4, 5, 8, 36} {
-		m := marked(t, c.bytes(n))
+		m := marked(t, c.Bytes(n))
 		for one := range 8 * n {
 			for two := range one {
 				notGood(t, m, two, one)
 			}
 		}
 	}
-	m := marked(t, c.bytes(4096))
+	m := marked(t, c.Bytes(4096))
 	for range 10000 {
-		one, two := c.below(8*4096), c.below(8*4096)
+		one, two := c.Below(8*4096), c.Below(8*4096)
 		if one != two {
 			notGood(t, m, one, two)
 		}
@@ -63,9 +65,9 @@ func TestRotTwoBits(t *testing.T) {
 
 // SM3: three bits: all threes of a few bytes, and many of a sector and of the longest.
 func TestRotThreeBits(t *testing.T) {
-	c := chance(13)
+	c := chance.Chance(13)
 	for _, n := range []int{4, 5, 8, 12} {
-		m := marked(t, c.bytes(n))
+		m := marked(t, c.Bytes(n))
 		for one := range 8 * n {
 			for two := range one {
 				for three := range two {
@@ -75,9 +77,9 @@ func TestRotThreeBits(t *testing.T) {
 		}
 	}
 	for _, n := range []int{512, 4096} {
-		m := marked(t, c.bytes(n))
+		m := marked(t, c.Bytes(n))
 		for range 10000 {
-			one, two, three := c.below(8*n), c.below(8*n), c.below(8*n)
+			one, two, three := c.Below(8*n), c.Below(8*n), c.Below(8*n)
 			if one != two && two != three && one != three {
 				notGood(t, m, one, two, three)
 			}
@@ -87,22 +89,22 @@ func TestRotThreeBits(t *testing.T) {
 
 // SM3: some bits within 32 on end, from each place on: the first of them, and any others.
 func TestRotOnEnd(t *testing.T) {
-	c := chance(14)
+	c := chance.Chance(14)
 	for _, n := range []int{4, 5, 8, 36, 512} {
-		m := marked(t, c.bytes(n))
+		m := marked(t, c.Bytes(n))
 		for from := range 8 * n {
 			room := min(32, 8*n-from)
 			notGood(t, m, onEnd(from, room, 1<<32-1)...)
 			notGood(t, m, onEnd(from, room, 1<<31)...)
 			for range 6 {
-				notGood(t, m, onEnd(from, room, c.below(1<<31)<<1)...)
+				notGood(t, m, onEnd(from, room, c.Below(1<<31)<<1)...)
 			}
 		}
 	}
-	m := marked(t, c.bytes(4096))
+	m := marked(t, c.Bytes(4096))
 	for range 10000 {
-		from := c.below(8*4096 - 31)
-		notGood(t, m, onEnd(from, 32, c.below(1<<31)<<1)...)
+		from := c.Below(8*4096 - 31)
+		notGood(t, m, onEnd(from, 32, c.Below(1<<31)<<1)...)
 	}
 }
 

@@ -8,6 +8,7 @@ import (
 	"testing"
 
 	"quilt/api"
+	"quilt/chance"
 )
 
 // reckoned is the sum of bytes word by word as the chapter tells it: another way than the package's own, to hold it against.
@@ -23,22 +24,6 @@ func reckoned(b []byte) uint32 {
 		}
 	}
 	return math.MaxUint32 - register
-}
-
-// chance makes the same numbers each time, without an end.
-type chance uint64
-
-func (c *chance) below(n int) int {
-	*c = *c*6364136223846793005 + 1442695040888963407
-	return int(uint64(*c)>>33) % n
-}
-
-func (c *chance) bytes(n int) []byte {
-	b := make([]byte, n)
-	for i := range b {
-		b[i] = byte(c.below(256))
-	}
-	return b
 }
 
 func run(n int, at func(i int) byte) []byte {
@@ -80,9 +65,9 @@ func TestSumReckoned(t *testing.T) {
 			t.Errorf("Sum(%x): %08x, want %08x", b, got, want)
 		}
 	}
-	c := chance(1)
+	c := chance.Chance(1)
 	for n := range 700 {
-		b := c.bytes(n)
+		b := c.Bytes(n)
 		if got, want := Sum(b), reckoned(b); got != want {
 			t.Fatalf("Sum of %d bytes: %08x, want %08x", n, got, want)
 		}
@@ -91,8 +76,8 @@ func TestSumReckoned(t *testing.T) {
 
 // SM1: More goes on from a sum, wherever the bytes are parted.
 func TestMore(t *testing.T) {
-	c := chance(2)
-	b := c.bytes(300)
+	c := chance.Chance(2)
+	b := c.Bytes(300)
 	want := reckoned(b)
 	for k := range len(b) + 1 {
 		if got := More(reckoned(b[:k]), b[k:]); got != want {
@@ -118,9 +103,9 @@ func TestMore(t *testing.T) {
 
 // SM1: some noughts are as bytes of 0.
 func TestNoughtsFew(t *testing.T) {
-	c := chance(3)
+	c := chance.Chance(3)
 	for n := range 1100 {
-		b := c.bytes(n % 50)
+		b := c.Bytes(n % 50)
 		want := reckoned(append(slices.Clone(b), make([]byte, n)...))
 		if got := Noughts(reckoned(b), n); got != want {
 			t.Fatalf("Noughts(%08x, %d): %08x, want %08x", reckoned(b), n, got, want)
@@ -161,9 +146,9 @@ func TestNoughtsDoubled(t *testing.T) {
 
 // SM1: noughts on noughts are all of them.
 func TestNoughtsAdded(t *testing.T) {
-	c := chance(4)
+	c := chance.Chance(4)
 	for range 200 {
-		s, n, m := uint32(c.below(1<<31)), c.below(1<<20)<<c.below(20), c.below(1<<30)
+		s, n, m := uint32(c.Below(1<<31)), c.Below(1<<20)<<c.Below(20), c.Below(1<<30)
 		if n+m > 1<<40 {
 			continue
 		}
@@ -207,9 +192,9 @@ func TestMark(t *testing.T) {
 			t.Errorf("Mark(%x): %x, %v, want %x", k.b, got, err, k.want)
 		}
 	}
-	c := chance(5)
+	c := chance.Chance(5)
 	for n := 4; n < 600; n++ {
-		b := c.bytes(n)
+		b := c.Bytes(n)
 		s := reckoned(b[:n-4])
 		want := append(slices.Clone(b[:n-4]), byte(s), byte(s>>8), byte(s>>16), byte(s>>24))
 		got, err := Mark(b)
@@ -239,9 +224,9 @@ func TestFewerThanFour(t *testing.T) {
 
 // SM2: what is marked is good, and only that.
 func TestGood(t *testing.T) {
-	c := chance(6)
+	c := chance.Chance(6)
 	for n := 4; n < 600; n++ {
-		b := c.bytes(n)
+		b := c.Bytes(n)
 		marked, err := Mark(b)
 		if err != nil || !Good(marked) {
 			t.Fatalf("what Mark made of %d bytes (%v) is not good", n, err)
@@ -265,9 +250,9 @@ func TestGood(t *testing.T) {
 
 // Rule 3: what is handed in stays as it is, its spare room too.
 func TestHandedInStays(t *testing.T) {
-	c := chance(7)
+	c := chance.Chance(7)
 	for _, n := range []int{0, 3, 4, 5, 512} {
-		whole := c.bytes(n + 40)
+		whole := c.Bytes(n + 40)
 		before := slices.Clone(whole)
 		b := whole[:n]
 		Sum(b)
@@ -282,9 +267,9 @@ func TestHandedInStays(t *testing.T) {
 
 // Rule 3: what Mark answers shares no memory with what it was given, nor with what it answered before.
 func TestAnswersApart(t *testing.T) {
-	c := chance(8)
+	c := chance.Chance(8)
 	for _, n := range []int{4, 5, 512} {
-		whole := c.bytes(n + 40)
+		whole := c.Bytes(n + 40)
 		marked, err := Mark(whole[:n])
 		if err != nil {
 			t.Fatal(err)
