@@ -25,7 +25,7 @@ func TestOfNothing(t *testing.T) {
 	}
 }
 
-// HA2: keys that others reckoned: a number is turned in ahead of what is added, and all of it is mixed.
+// HA2: keys that follow from the numbers of TestMixKnown, as a number is turned in ahead of what is added, and all of it is mixed.
 func TestOfKnown(t *testing.T) {
 	known := []struct {
 		l    []uint64
